@@ -47,10 +47,8 @@ func Get[W Word](b []byte) (W, bool) {
 // Turn: a word, turned by n.
 func Turn[W Word](x W, n int) W {
 	all := Bits[W]()
-	up := n % all
-	if up < 0 {
-		up += all
-	}
+	// As a word has a power of two bits, the lowest ones of n tell how far up it turns, below 0 too.
+	up := n & (all - 1)
 	return x<<up | x>>(all-up)
 }
 
